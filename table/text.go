@@ -89,5 +89,8 @@ func (t *Table) at(place int) (Entry, int, bool) {
 	if gone {
 		value = 0
 	}
-	return Entry{c.take(key), c.take(value), gone}, len(t.rows) - len(c.rest), true
+	e := Entry{c.take(key), c.take(value), gone}
+	// A statement of its own: beside calls of the cursor it would be free whether its rest is read ahead of them.
+	behind := len(t.rows) - len(c.rest)
+	return e, behind, true
 }
