@@ -4,7 +4,6 @@ import (
 	"fmt"
 	"maps"
 	"math"
-	"slices"
 	"strings"
 	"testing"
 
@@ -48,16 +47,18 @@ func scenes(t *testing.T) map[string]scene {
 	return m
 }
 
-// cuts are disks that crashes may leave of one, as far as they are others, with their power on again.
-func cuts(d *disk.Disk, keeps ...int) []*disk.Disk {
-	var l []*disk.Disk
-	for _, keep := range append(keeps, 0, 1000, math.MaxInt) {
+// cuts are disks that a crash may leave of one, with their power on again: each of them if tails are short, else as many all over them.
+func cuts(d *disk.Disk) []*disk.Disk {
+	cut := func(keep int) *disk.Disk {
 		x := d.Twin()
 		x.Crash([]int{keep, keep, keep})
 		x.Start()
-		if !slices.ContainsFunc(l, func(y *disk.Disk) bool { return disk.Same(x, y) }) {
-			l = append(l, x)
-		}
+		return x
+	}
+	l := []*disk.Disk{cut(math.MaxInt)}
+	tail := l[0].Used() - cut(0).Used()
+	for keep := 0; keep < tail; keep += 1 + tail/100*4 {
+		l = append(l, cut(keep))
 	}
 	return l
 }
@@ -107,7 +108,7 @@ func TestPowerGoesInCommit(t *testing.T) {
 func behindACrash(t *testing.T, what string, b *Db, d *disk.Disk, x scene) {
 	t.Helper()
 	whole, none := 0, 0
-	for i, y := range cuts(d, 1, 4, 7, 8, 9, 20, 40, 60, 100, 16000, 40000) {
+	for i, y := range cuts(d) {
 		here := fmt.Sprintf("%s, cut %d", what, i)
 		opened, h := found(t, here, y, x.h, x.h.after(x.l))
 		if maps.Equal(h, x.h) {
